@@ -1312,32 +1312,47 @@ func roomy(list []int) []int {
 	return append(slices.Clone(list), -77, 3, 'x', 1<<40)[: len(list) : len(list)+4]
 }
 
+// spareNode is what is behind the nodes of a roomyRx.
+func spareNode() impl.RxNode {
+	return impl.RxNode{Kind: 99, Lo: -5, Set: []int{1}, Kids: []int{-3}}
+}
+
+// roomyRx returns x with spare room behind each of its lists.
+func roomyRx(x impl.Rx) impl.Rx {
+	var y impl.Rx
+	for _, node := range x.Nodes {
+		node.Set, node.Kids = roomy(node.Set), roomy(node.Kids)
+		y.Nodes = append(y.Nodes, node)
+	}
+	y.Nodes = append(y.Nodes, spareNode())[:len(x.Nodes)]
+	return y
+}
+
+// checkUntouched holds that y is what roomyRx made of x, also behind its lists.
+func checkUntouched(t *testing.T, y impl.Rx, x impl.Rx) {
+	t.Helper()
+	for i, node := range y.Nodes {
+		for _, list := range [][]int{node.Set, node.Kids} {
+			if !slices.Equal(list[len(list):len(list)+4], []int{-77, 3, 'x', 1 << 40}) {
+				t.Errorf("what is behind the lists of node %d of %q is changed", i, impl.RxText(x))
+			}
+		}
+	}
+	if !sameRx(y, x) || !reflect.DeepEqual(y.Nodes[:len(y.Nodes)+1][len(y.Nodes)], spareNode()) {
+		t.Errorf("the pattern %q is changed", impl.RxText(x))
+	}
+}
+
 func TestPatternsAreNotChanged(t *testing.T) {
 	for _, s := range []string{"", "a(b|c)*", "[^a-c[:digit:]]{2,3}", "(ab|())+$", strings.Repeat("a", impl.MaxPattern)} {
 		x := pattern(t, s)
-		want := pattern(t, s)
-		var y impl.Rx
-		for _, node := range x.Nodes {
-			node.Set, node.Kids = roomy(node.Set), roomy(node.Kids)
-			y.Nodes = append(y.Nodes, node)
-		}
-		spare := impl.RxNode{Kind: 99, Lo: -5, Set: []int{1}, Kids: []int{-3}}
-		y.Nodes = append(y.Nodes, spare)[:len(x.Nodes)]
+		y := roomyRx(x)
 		for range 2 {
-			if impl.RxText(y) != impl.RxText(want) || impl.RxSize(y) != impl.RxSize(want) || !impl.RxSound(y) {
+			if impl.RxText(y) != impl.RxText(x) || impl.RxSize(y) != impl.RxSize(x) || !impl.RxSound(y) {
 				t.Errorf("what is behind the lists of %q is read", s)
 			}
 		}
-		for i, node := range y.Nodes {
-			for _, list := range [][]int{node.Set, node.Kids} {
-				if !slices.Equal(list[len(list):len(list)+4], []int{-77, 3, 'x', 1 << 40}) {
-					t.Errorf("what is behind the lists of node %d of %q is changed", i, s)
-				}
-			}
-		}
-		if !sameRx(y, want) || !reflect.DeepEqual(y.Nodes[:len(y.Nodes)+1][len(y.Nodes)], spare) {
-			t.Errorf("the pattern %q is changed", s)
-		}
+		checkUntouched(t, y, x)
 	}
 	broken := notTrees()
 	for i, x := range notTrees() {
