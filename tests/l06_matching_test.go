@@ -591,26 +591,30 @@ func matchingText(random *rand.Rand, length int) string {
 	return b.String()
 }
 
-func TestMatchesOfAllShortPatterns(t *testing.T) {
-	read := 0
-	for _, list := range [][]string{
+// shortPatterns are all short patterns over few symbols.
+func shortPatterns(t *testing.T) []impl.Rx {
+	t.Helper()
+	var list []impl.Rx
+	for _, p := range slices.Concat(
 		allOf("", []string{"a", "b", "(", ")", "|", "*", "{2}", "^", ".", "$"}, 4),
 		allOf("", []string{"a", "(", ")", "|", "*"}, 6),
 		allOf("(a", []string{"b", "(", ")", "|", "+", "{0,2}"}, 5),
-	} {
-		for _, p := range list {
-			x, _, code := impl.RxRead(p)
-			if code != impl.RxOK {
-				continue
-			}
-			read++
-			for _, s := range []string{"", "a", "b", "ab", "aab", "bab", "abbaa"} {
-				checkMatches(t, x, s)
-			}
+	) {
+		if x, _, code := impl.RxRead(p); code == impl.RxOK {
+			list = append(list, x)
 		}
 	}
-	if read < 5000 {
-		t.Errorf("only %d patterns are read", read)
+	if len(list) < 5000 {
+		t.Errorf("only %d patterns are read", len(list))
+	}
+	return list
+}
+
+func TestMatchesOfAllShortPatterns(t *testing.T) {
+	for _, x := range shortPatterns(t) {
+		for _, s := range []string{"", "a", "b", "ab", "aab", "bab", "abbaa"} {
+			checkMatches(t, x, s)
+		}
 	}
 }
 
