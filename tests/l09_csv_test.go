@@ -130,38 +130,79 @@ func secondCsvText(all []impl.Row) (string, bool) {
 	return b.String(), true
 }
 
-// checkCsv wants these rows, this offset and this code, and no cell in the memory of s.
-func checkCsv(t *testing.T, s string, want []impl.Row, wantAt int, wantCode int) {
+// rowFormat is a format of files of rows, with a second reader and a second writer of it.
+type rowFormat struct {
+	name       string
+	read       func(string) ([]impl.Row, int, int)
+	secondRead func(string) ([]impl.Row, int, int)
+	text       func([]impl.Row) (string, bool)
+	secondText func([]impl.Row) (string, bool)
+}
+
+func csvFormat() rowFormat {
+	return rowFormat{name: "Csv", read: impl.CsvRead, secondRead: secondCsv, text: impl.CsvText, secondText: secondCsvText}
+}
+
+// checkRead wants these rows, this offset and this code, and no cell in the memory of s.
+func (f rowFormat) checkRead(t *testing.T, s string, want []impl.Row, wantAt int, wantCode int) {
 	t.Helper()
-	got, at, code := impl.CsvRead(s)
+	got, at, code := f.read(s)
 	if !sameRows(got, want) || at != wantAt || code != wantCode {
-		t.Fatalf("CsvRead(%.200q) returns %.200q, %d and the code %d, not %.200q, %d and %d", s, got, at, code, want, wantAt, wantCode)
+		t.Fatalf("%sRead(%.200q) returns %.200q, %d and the code %d, not %.200q, %d and %d", f.name, s, got, at, code, want, wantAt, wantCode)
 	}
 	for _, r := range got {
 		for _, cell := range r.Cells {
-			checkNew(t, "CsvRead", cell, s)
+			checkNew(t, f.name+"Read", cell, s)
 		}
 	}
 }
 
-// checkCsvAgain holds CsvRead against the second reader.
+// checkReadAgain holds the reader against the second one.
+func (f rowFormat) checkReadAgain(t *testing.T, s string) {
+	t.Helper()
+	want, at, code := f.secondRead(s)
+	f.checkRead(t, s, want, at, code)
+}
+
+func (f rowFormat) checkText(t *testing.T, all []impl.Row, want string, wantOk bool) {
+	t.Helper()
+	got, ok := f.text(all)
+	if got != want || ok != wantOk {
+		t.Fatalf("%sText of %d rows %.200q returns %.200q, %v, not %.200q, %v", f.name, len(all), all[:min(len(all), 4)], got, ok, want, wantOk)
+	}
+	for _, r := range all[:min(len(all), 100)] {
+		for _, cell := range r.Cells {
+			checkNew(t, f.name+"Text", got, cell)
+		}
+	}
+}
+
+// checkRecovered holds the writer against the second one, and P10, for rows that are RowsOk. It returns whether they
+// have a text.
+func (f rowFormat) checkRecovered(t *testing.T, all []impl.Row) bool {
+	t.Helper()
+	checkRowsOk(t, all, true)
+	s, ok := f.secondText(all)
+	f.checkText(t, all, s, ok)
+	if ok {
+		f.checkRead(t, s, all, 0, impl.CsOK)
+	}
+	return ok
+}
+
+func checkCsv(t *testing.T, s string, want []impl.Row, wantAt int, wantCode int) {
+	t.Helper()
+	csvFormat().checkRead(t, s, want, wantAt, wantCode)
+}
+
 func checkCsvAgain(t *testing.T, s string) {
 	t.Helper()
-	want, at, code := secondCsv(s)
-	checkCsv(t, s, want, at, code)
+	csvFormat().checkReadAgain(t, s)
 }
 
 func checkCsvText(t *testing.T, all []impl.Row, want string, wantOk bool) {
 	t.Helper()
-	got, ok := impl.CsvText(all)
-	if got != want || ok != wantOk {
-		t.Fatalf("CsvText of %d rows %.200q returns %.200q, %v, not %.200q, %v", len(all), all[:min(len(all), 4)], got, ok, want, wantOk)
-	}
-	for _, r := range all[:min(len(all), 100)] {
-		for _, cell := range r.Cells {
-			checkNew(t, "CsvText", got, cell)
-		}
-	}
+	csvFormat().checkText(t, all, want, wantOk)
 }
 
 // checkRowsOk wants RowsOk to be so, and no text of rows that are not.
@@ -170,22 +211,15 @@ func checkRowsOk(t *testing.T, all []impl.Row, want bool) {
 	if got := impl.RowsOk(all); got != want {
 		t.Fatalf("RowsOk of %d rows %.200q is %v", len(all), all[:min(len(all), 4)], got)
 	}
-	if s, ok := impl.CsvText(all); !want && (ok || s != "") {
-		t.Fatalf("rows that are not RowsOk have the text %.200q, %v", s, ok)
+	if !want {
+		csvFormat().checkText(t, all, "", false)
+		tsvFormat().checkText(t, all, "", false)
 	}
 }
 
-// checkRowsRecovered holds CsvText against the second writer, and P10, for rows that are RowsOk. It returns whether
-// they have a text.
 func checkRowsRecovered(t *testing.T, all []impl.Row) bool {
 	t.Helper()
-	checkRowsOk(t, all, true)
-	s, ok := secondCsvText(all)
-	checkCsvText(t, all, s, ok)
-	if ok {
-		checkCsv(t, s, all, 0, impl.CsOK)
-	}
-	return ok
+	return csvFormat().checkRecovered(t, all)
 }
 
 func TestConstantsOfCsv(t *testing.T) {
@@ -270,33 +304,34 @@ func TestCsvRowsOfEachEndBehindEachOther(t *testing.T) {
 	}
 }
 
-// csvFault is a file, the rows before its first error, and where and what that is.
-type csvFault struct {
+// fault is a file, the rows before its first error, and where and what that is.
+type fault struct {
 	s    string
 	want []impl.Row
 	at   int
 	code int
 }
 
-// checkCsvFaults tests each file alone and behind other rows.
-func checkCsvFaults(t *testing.T, all []csvFault) {
+// checkFaults tests each file alone and behind other ones, which have rows and no error.
+func (f rowFormat) checkFaults(t *testing.T, before []string, all []fault) {
 	t.Helper()
-	before := []struct {
-		s    string
-		want []impl.Row
-	}{
-		{"", nil}, {"x\n", rows(row("x"))}, {"\n", rows(row(""))}, {"\r\n\n", rows(row(""), row(""))}, {"x,y\r\n", rows(row("x", "y"))}, {"\"p\nq\",\"\"\n\u00e9\n", rows(row("p\nq", ""), row("\u00e9"))}, {"\"\"\"\"\r\n", rows(row(`"`))}, {strings.Repeat(",", impl.MaxFields-1) + "\n", rows(row(slices.Repeat(list(""), impl.MaxFields)...))},
-	}
-	for _, c := range all {
-		for _, b := range before {
-			checkCsv(t, b.s+c.s, slices.Concat(b.want, c.want), len(b.s)+c.at, c.code)
-			checkCsvAgain(t, b.s+c.s)
+	for _, b := range append(list(""), before...) {
+		whole, _, _ := f.secondRead(b)
+		f.checkRead(t, b, whole, 0, impl.CsOK)
+		for _, c := range all {
+			f.checkRead(t, b+c.s, slices.Concat(whole, c.want), len(b)+c.at, c.code)
+			f.checkReadAgain(t, b+c.s)
 		}
 	}
 }
 
+func checkCsvFaults(t *testing.T, all []fault) {
+	t.Helper()
+	csvFormat().checkFaults(t, list("x\n", "\n", "\r\n\n", "x,y\r\n", "\"p\nq\",\"\"\n\u00e9\n", "\"\"\"\"\r\n", strings.Repeat(",", impl.MaxFields-1)+"\n"), all)
+}
+
 func TestCsvQuotationMarksThatAreWrong(t *testing.T) {
-	checkCsvFaults(t, []csvFault{
+	checkCsvFaults(t, []fault{
 		// inside of a cell
 		{`a"`, nil, 1, impl.CsQuote}, {`a"b`, nil, 1, impl.CsQuote}, {`a""`, nil, 1, impl.CsQuote}, {`a"b"`, nil, 1, impl.CsQuote}, {` "a"`, nil, 1, impl.CsQuote}, {"\t\"", nil, 1, impl.CsQuote}, {"\u00e9\"", nil, 2, impl.CsQuote}, {"\u8a9ea\"\n", nil, 4, impl.CsQuote}, {`a,b"`, nil, 3, impl.CsQuote}, {`,, "`, nil, 3, impl.CsQuote}, {`"a",b"c"`, nil, 5, impl.CsQuote}, {"a\nb\"\nc", rows(row("a")), 3, impl.CsQuote}, {"a\r\nb,c\"\r\n", rows(row("a")), 6, impl.CsQuote}, {"a\",b\"", nil, 1, impl.CsQuote}, {"\\\"", nil, 1, impl.CsQuote},
 		// behind a cell in quotation marks
@@ -307,13 +342,13 @@ func TestCsvQuotationMarksThatAreWrong(t *testing.T) {
 }
 
 func TestCsvRowsThatEndWrongly(t *testing.T) {
-	checkCsvFaults(t, []csvFault{
+	checkCsvFaults(t, []fault{
 		{"\r", nil, 0, impl.CsEnd}, {"\ra", nil, 0, impl.CsEnd}, {"\r\r\n", nil, 0, impl.CsEnd}, {"\r,", nil, 0, impl.CsEnd}, {"\r\"\"", nil, 0, impl.CsEnd}, {"a\r", nil, 1, impl.CsEnd}, {"a\rb", nil, 1, impl.CsEnd}, {"a\rb\n", nil, 1, impl.CsEnd}, {"a\r\r\n", nil, 1, impl.CsEnd}, {"a\r,b", nil, 1, impl.CsEnd}, {"a\r\"", nil, 1, impl.CsEnd}, {"a\r \n", nil, 1, impl.CsEnd}, {",\r", nil, 1, impl.CsEnd}, {"a,\r", nil, 2, impl.CsEnd}, {"a,b\rc", nil, 3, impl.CsEnd}, {"\"a\",\r", nil, 4, impl.CsEnd}, {"\"a\",b\r", nil, 5, impl.CsEnd}, {"\u00e9\r", nil, 2, impl.CsEnd}, {"a\r\u00e9", nil, 1, impl.CsEnd}, {"\n\r", rows(row("")), 1, impl.CsEnd}, {"a\n\r", rows(row("a")), 2, impl.CsEnd}, {"a\r\n\r", rows(row("a")), 3, impl.CsEnd}, {"a\r\n\rb\r\n", rows(row("a")), 3, impl.CsEnd}, {"a\r\nb\r\nc\rd\r\n", rows(row("a"), row("b")), 7, impl.CsEnd}, {"\"a\r\"\n\r", rows(row("a\r")), 5, impl.CsEnd},
 	})
 }
 
 func TestCsvCellsThatAreNotClosed(t *testing.T) {
-	checkCsvFaults(t, []csvFault{
+	checkCsvFaults(t, []fault{
 		{`"`, nil, 1, impl.CsOpen}, {`"a`, nil, 2, impl.CsOpen}, {`"a,b`, nil, 4, impl.CsOpen}, {"\"a\n", nil, 3, impl.CsOpen}, {"\"a\r\n", nil, 4, impl.CsOpen}, {"\"\r", nil, 2, impl.CsOpen}, {"\"\u00e9", nil, 3, impl.CsOpen}, {"\"\U0001f600", nil, 5, impl.CsOpen}, {"\" ", nil, 2, impl.CsOpen}, {`a,"`, nil, 3, impl.CsOpen}, {`"a","b`, nil, 6, impl.CsOpen}, {"a\nb,\"c\nd,e\n", rows(row("a")), 11, impl.CsOpen},
 		// behind a pair
 		{`"""`, nil, 3, impl.CsOpen}, {`"a""`, nil, 4, impl.CsOpen}, {`"""a`, nil, 4, impl.CsOpen}, {`"""""`, nil, 5, impl.CsOpen}, {`"a""""`, nil, 6, impl.CsOpen}, {`"a"",b`, nil, 6, impl.CsOpen}, {"\"a\"\"\n", nil, 5, impl.CsOpen}, {`"a""b""`, nil, 7, impl.CsOpen}, {`a,"b""`, nil, 6, impl.CsOpen}, {`"a","""`, nil, 7, impl.CsOpen}, {"\"a\"\r\n\"\"\"\r\n", rows(row("a")), 10, impl.CsOpen},
@@ -428,7 +463,7 @@ func TestCsvLongCellsWithSomethingWrongBehindThem(t *testing.T) {
 func TestCsvFirstErrorOfSeveral(t *testing.T) {
 	long := strings.Repeat("a", impl.MaxText+1)
 	commas := strings.Repeat(",", impl.MaxFields)
-	checkCsvFaults(t, []csvFault{
+	checkCsvFaults(t, []fault{
 		{"a\"b\r\"", nil, 1, impl.CsQuote}, {"a\rb\"", nil, 1, impl.CsEnd}, {"a\r\"b", nil, 1, impl.CsEnd}, {"\"a\"b\rc\"", nil, 3, impl.CsQuote}, {"\"a\"\r\"", nil, 3, impl.CsQuote}, {"\"a\rb\"c", nil, 5, impl.CsQuote}, {"\"a\rb,c\"\"", nil, 8, impl.CsOpen}, {"a,\"b\"c,\r,d\"", nil, 5, impl.CsQuote}, {"a\nb\rc\nd\"", rows(row("a")), 3, impl.CsEnd}, {"a\nb\"c\nd\r", rows(row("a")), 3, impl.CsQuote}, {"\"a\" \n\"b", nil, 3, impl.CsQuote}, {"a\n\"b\n\"\n\"c\"d\"", rows(row("a"), row("b\n")), 10, impl.CsQuote},
 		{long + ",a\"", nil, 0, impl.CsLong}, {"a\"," + long, nil, 1, impl.CsQuote}, {"\r\n" + long + "\r\n\r", rows(row("")), 2, impl.CsLong}, {"\r" + long, nil, 0, impl.CsEnd}, {"a," + long + "\n" + long, nil, 2, impl.CsLong}, {long + "," + long, nil, 0, impl.CsLong}, {long + ",\"" + long, nil, 0, impl.CsLong}, {"\"" + long + "," + long, nil, 2004, impl.CsOpen}, {long + commas, nil, 0, impl.CsLong}, {commas + long, nil, 100, impl.CsMany}, {commas + "\"", nil, 100, impl.CsMany}, {"a\"" + commas, nil, 1, impl.CsQuote}, {"\"\"a" + commas, nil, 2, impl.CsQuote}, {"\"" + commas, nil, 101, impl.CsOpen}, {"\r" + commas, nil, 0, impl.CsEnd}, {commas + "\r", nil, 100, impl.CsMany}, {commas[2:] + "a\"," + commas, nil, 99, impl.CsQuote}, {commas[2:] + "\r" + commas, nil, 98, impl.CsEnd}, {commas[2:] + long + commas, nil, 98, impl.CsLong}, {commas[1:] + long + commas, nil, 99, impl.CsLong}, {commas[1:] + long + "\"" + commas, nil, 1100, impl.CsQuote}, {commas[1:] + "\n" + commas + "\r", rows(row(slices.Repeat(list(""), 100)...)), 200, impl.CsMany},
 	})
@@ -487,10 +522,8 @@ func TestAllShortCsvFiles(t *testing.T) {
 	}
 }
 
-// randomCsv is a text of parts that mean something in a file, which often are wrong where they stand.
-func randomCsv(random *rand.Rand, count int) string {
-	parts := list("a", "b c", "\u00e9", "\u8a9e\U0001f600", " ", ",", ",", ",", "\n", "\n", "\r\n", "\r\n", "\n\n", `"a"`, `"b,c"`, `""`, "\"d\ne\"", "\"f\r\n\"", `"g""h"`, `""""`, ",\"", "\",", "\"\n", ",\"i", "j\",")
-	wrong := list(`"`, "\r", `"`, `"""`)
+// randomParts is a text of so many parts. In one of four texts others, which often are wrong, stand between some.
+func randomParts(random *rand.Rand, count int, parts []string, wrong []string) string {
 	faulty := random.Intn(4) == 0
 	var b strings.Builder
 	for range count {
@@ -500,6 +533,12 @@ func randomCsv(random *rand.Rand, count int) string {
 		b.WriteString(parts[random.Intn(len(parts))])
 	}
 	return b.String()
+}
+
+// randomCsv is a text of parts that mean something in a file, some of which are wrong where they stand.
+func randomCsv(random *rand.Rand, count int) string {
+	parts := list("a", "b c", "\u00e9", "\u8a9e\U0001f600", " ", ",", ",", ",", "\n", "\n", "\r\n", "\r\n", "\n\n", `"a"`, `"b,c"`, `""`, "\"d\ne\"", "\"f\r\n\"", `"g""h"`, `""""`, ",\"", "\",", "\"\n", ",\"i", "j\",")
+	return randomParts(random, count, parts, list(`"`, "\r", `"`, `"""`))
 }
 
 // randomLargeCsv is a file with rows of nearly too many cells and with cells that are nearly too long.
@@ -563,6 +602,25 @@ func TestCsvText(t *testing.T) {
 	}
 }
 
+// checkLargest wants rows to have a text of MaxFile bytes, and none with a row or a cell more.
+func (f rowFormat) checkLargest(t *testing.T, all []impl.Row) {
+	t.Helper()
+	s, ok := f.text(all)
+	if !ok || len(s) != impl.MaxFile || !f.checkRecovered(t, all) {
+		t.Fatalf("the text of %d rows %.100q has %d bytes, %v", len(all), all[:1], len(s), ok)
+	}
+	last := len(all) - 1
+	for _, larger := range [][]impl.Row{
+		append(slices.Clone(all), row("")),
+		append(rows(row("")), all...),
+		append(slices.Clone(all[:last]), row(append(slices.Clone(all[last].Cells), "")...)),
+		append(slices.Clone(all[:last]), row(append(list(""), all[last].Cells...)...)),
+	} {
+		checkRowsOk(t, larger, true)
+		f.checkText(t, larger, "", false)
+	}
+}
+
 func TestLimitsOfCsvText(t *testing.T) {
 	a := func(n int) string { return strings.Repeat("a", n) }
 	most := impl.MaxFile
@@ -578,20 +636,7 @@ func TestLimitsOfCsvText(t *testing.T) {
 		rows(row(strings.Repeat("\u00e9", 499)+",", a(1000), a(1000), a(992)+"\n")),
 		append(slices.Repeat(rows(row(slices.Repeat(list(""), 100)...)), 39), row(a(99))),
 	} {
-		s, ok := impl.CsvText(all)
-		if !ok || len(s) != most || !checkRowsRecovered(t, all) {
-			t.Fatalf("the text of %d rows %.100q has %d bytes, %v", len(all), all[:1], len(s), ok)
-		}
-		last := len(all) - 1
-		for _, larger := range [][]impl.Row{
-			append(slices.Clone(all), row("")),
-			append(rows(row("")), all...),
-			append(slices.Clone(all[:last]), row(append(slices.Clone(all[last].Cells), "")...)),
-			append(slices.Clone(all[:last]), row(append(list(""), all[last].Cells...)...)),
-		} {
-			checkRowsOk(t, larger, true)
-			checkCsvText(t, larger, "", false)
-		}
+		csvFormat().checkLargest(t, all)
 	}
 	checkCsvText(t, slices.Repeat(rows(row(a(999))), 3), strings.Repeat(a(999)+"\n", 3), true)
 	// only what is written counts, with its quotation marks
@@ -644,43 +689,54 @@ func roomyRows(all []impl.Row) []impl.Row {
 	return append(roomier, row("spare"), row("\x00"))[:len(all)]
 }
 
-func TestCsvChangesNothing(t *testing.T) {
-	full := row(slices.Repeat(list("a"), impl.MaxFields)...)
-	for _, all := range [][]impl.Row{nil, rows(row("")), rows(row("a", "b"), row(`c"d`, ",")), rows(full, full), rows(row(), row("a")), rows(row("a"), row("\xff", "b"))} {
-		spacious := roomyRows(all)
-		for range 2 {
-			checkRowsOk(t, spacious, secondRowsOk(all))
-			want, ok := secondCsvText(all)
-			checkCsvText(t, spacious, want, ok)
-		}
-		if !sameRows(spacious, all) || !sameRows(spacious[:len(all)+2][len(all):], rows(row("spare"), row("\x00"))) {
-			t.Errorf("the rows %q are changed", all)
-		}
-		for i, r := range spacious {
-			if n := len(r.Cells); !slices.Equal(r.Cells[:n+2][n:], list("\xff", "spare")) {
-				t.Errorf("what is behind the cells of row %d of %q is changed", i, all)
-			}
+// checkTextChangesNothing wants what is written to be as it was, also behind the lists.
+func (f rowFormat) checkTextChangesNothing(t *testing.T, all []impl.Row) {
+	t.Helper()
+	spacious := roomyRows(all)
+	for range 2 {
+		checkRowsOk(t, spacious, secondRowsOk(all))
+		want, ok := f.secondText(all)
+		f.checkText(t, spacious, want, ok)
+	}
+	if !sameRows(spacious, all) || !sameRows(spacious[:len(all)+2][len(all):], rows(row("spare"), row("\x00"))) {
+		t.Errorf("the rows %q are changed", all)
+	}
+	for i, r := range spacious {
+		if n := len(r.Cells); !slices.Equal(r.Cells[:n+2][n:], list("\xff", "spare")) {
+			t.Errorf("what is behind the cells of row %d of %q is changed", i, all)
 		}
 	}
 }
 
-// TestRowsOfCsvShareNothing overwrites each list of a result, which changes no other one and no later result.
+func TestCsvChangesNothing(t *testing.T) {
+	full := row(slices.Repeat(list("a"), impl.MaxFields)...)
+	for _, all := range [][]impl.Row{nil, rows(row("")), rows(row("a", "b"), row(`c"d`, ",")), rows(full, full), rows(row(), row("a")), rows(row("a"), row("\xff", "b"))} {
+		csvFormat().checkTextChangesNothing(t, all)
+	}
+}
+
+// checkRowsShareNothing overwrites each list of a result, which changes no other one and no later result.
+func (f rowFormat) checkRowsShareNothing(t *testing.T, s string) {
+	t.Helper()
+	want, at, code := f.secondRead(s)
+	for i := range want {
+		got, _, _ := f.read(s)
+		spare := got[i].Cells[:cap(got[i].Cells)]
+		for k := range spare {
+			spare[k] = "changed"
+		}
+		for k := range got {
+			if k != i && !slices.Equal(got[k].Cells, want[k].Cells) {
+				t.Errorf("the rows %d and %d of %q share memory", i, k, s)
+			}
+		}
+		f.checkRead(t, s, want, at, code)
+	}
+}
+
 func TestRowsOfCsvShareNothing(t *testing.T) {
 	for _, s := range list("a,b\nc\n\n\"d\",,e,f,g\r\nh", "\n\n\n", "a,b,c\nd\ne,f\"", "a\nb,c\n\"", strings.Repeat("a,b\n", 50)) {
-		want, at, code := secondCsv(s)
-		for i := range want {
-			got, _, _ := impl.CsvRead(s)
-			spare := got[i].Cells[:cap(got[i].Cells)]
-			for k := range spare {
-				spare[k] = "changed"
-			}
-			for k := range got {
-				if k != i && !slices.Equal(got[k].Cells, want[k].Cells) {
-					t.Errorf("the rows %d and %d of %q share memory", i, k, s)
-				}
-			}
-			checkCsv(t, s, want, at, code)
-		}
+		csvFormat().checkRowsShareNothing(t, s)
 	}
 }
 
@@ -698,13 +754,13 @@ func randomCell(random *rand.Rand, length int) string {
 }
 
 // randomRows are rows that are RowsOk: a few or many, with a few or many cells, short ones or long ones.
-func randomRows(random *rand.Rand) []impl.Row {
+func randomRows(random *rand.Rand, drawn func(*rand.Rand, int) string) []impl.Row {
 	most := [][]int{{4, 5, 6}, {4, 5, 6}, {60, 4, 4}, {15, impl.MaxFields, 6}, {10, 4, 300}, {2, 3, 500}, {2000, 2, 2}}[random.Intn(7)]
 	var all []impl.Row
 	for range random.Intn(most[0] + 1) {
 		var cells []string
 		for range 1 + random.Intn(most[1]) {
-			if cell := randomCell(random, random.Intn(most[2]+1)); len(cell) <= impl.MaxText {
+			if cell := drawn(random, random.Intn(most[2]+1)); len(cell) <= impl.MaxText {
 				cells = append(cells, cell)
 			} else {
 				cells = append(cells, "")
@@ -715,11 +771,12 @@ func randomRows(random *rand.Rand) []impl.Row {
 	return all
 }
 
-func TestP10DrawnRowsAreRecovered(t *testing.T) {
-	random := rand.New(rand.NewSource(92))
+// checkDrawnRows wants most of the rows of drawn cells, but not all of them, to have a text.
+func checkDrawnRows(t *testing.T, random *rand.Rand, drawn func(*rand.Rand, int) string, recovered func(*testing.T, []impl.Row) bool) {
+	t.Helper()
 	kept, left := 0, 0
 	for range 20000 {
-		if checkRowsRecovered(t, randomRows(random)) {
+		if recovered(t, randomRows(random, drawn)) {
 			kept++
 		} else {
 			left++
@@ -728,6 +785,10 @@ func TestP10DrawnRowsAreRecovered(t *testing.T) {
 	if kept < 10000 || left < 500 {
 		t.Errorf("%d lists of rows have a text, and %d have none", kept, left)
 	}
+}
+
+func TestP10DrawnRowsAreRecovered(t *testing.T) {
+	checkDrawnRows(t, rand.New(rand.NewSource(92)), randomCell, checkRowsRecovered)
 }
 
 func TestP10RowsOfDrawnCodePointsAreRecovered(t *testing.T) {
